@@ -15,10 +15,7 @@ func inChaos(t *testing.T, seeds int, do func(x *chaos)) {
 			c := config(3 + 2*(seed%3))
 			c.Patience = 1 + seed%4
 			c.Segment = []int{1, 100, 500, 5000}[seed%4]
-			c.Codec = []int{api.CodecNone, api.CodecLz}[seed/3%2]
-			if seed == 11 {
-				c.Codec = api.CodecDeflate // it takes its time
-			}
+			c.Codec = []int{api.CodecNone, api.CodecLz}[seed/3%2] // the third one takes its time
 			do(newChaos(t, c, int64(seed)))
 		})
 	}
@@ -31,6 +28,20 @@ func TestRp2Steps(t *testing.T) {
 			x.steps(200)
 		}
 	})
+}
+
+// Rp2: the same by the codec that takes its time.
+func TestRp2Deflate(t *testing.T) {
+	c := config(3)
+	c.Codec = api.CodecDeflate
+	x := newChaos(t, c, 1)
+	for range 5 {
+		x.steps(100)
+		x.episode()
+		x.turn()
+	}
+	x.calm(2)
+	x.checkAll()
 }
 
 // Rp2, Rp3: the same through many views.
